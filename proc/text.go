@@ -4,6 +4,7 @@ import (
 	"strings"
 
 	"watchway/api"
+	"watchway/naming"
 )
 
 // flowWord begins the line of a flow.
@@ -100,7 +101,7 @@ func (d *draft) readLine(text string) bool {
 
 func (d *draft) readNode(word, name string) bool {
 	kind := kindOf(word)
-	if !isKind(kind) || !isName(name) {
+	if !isKind(kind) || !naming.IsName(name) {
 		return false
 	}
 	// A piece of the text would keep the text: the name is a copy.
@@ -109,7 +110,7 @@ func (d *draft) readNode(word, name string) bool {
 }
 
 func (d *draft) readFlow(from, to string) bool {
-	if !isName(from) || !isName(to) {
+	if !naming.IsName(from) || !naming.IsName(to) {
 		return false
 	}
 	d.flows = append(d.flows, namedFlow{from, to})
