@@ -1,0 +1,55 @@
+package auto
+
+import (
+	"iter"
+
+	"watchway/api"
+)
+
+// Single answers an automaton with just one fair set that accepts the same words as a.
+func Single(a api.Auto) (api.Auto, api.Errno) {
+	if e := Check(a); e != api.OK {
+		return api.Auto{}, e
+	}
+	// In place of no fair set there may be one of all states: it is always met.
+	fair := setsOf(a.Fair)
+	if len(fair) == 0 {
+		fair = []set{allStates(a)}
+	}
+	next := eachOnce(a.Next)
+	single, pairs, e := gather(paired(once(a.Start), 0), func(at pair) iter.Seq[pair] {
+		waited := at.second
+		if fair[waited].has(at.first) {
+			waited = (waited + 1) % len(fair)
+		}
+		return paired(next[at.first], waited)
+	})
+	if e != api.OK {
+		return api.Auto{}, e
+	}
+	for _, p := range pairs {
+		single.Must = append(single.Must, a.Must[p.first])
+		single.Not = append(single.Not, a.Not[p.first])
+	}
+	single.Fair = [][]int{where(pairs, func(p pair) bool { return p.second == 0 && fair[0].has(p.first) })}
+	return single, api.OK
+}
+
+func allStates(a api.Auto) set {
+	var all set
+	for state := range a.Next {
+		all.add(state)
+	}
+	return all
+}
+
+// paired hands over each of some states with the number of the fair set that is waited for.
+func paired(states []int, waited int) iter.Seq[pair] {
+	return func(yield func(pair) bool) {
+		for _, state := range states {
+			if !yield(pair{state, waited}) {
+				return
+			}
+		}
+	}
+}
