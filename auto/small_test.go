@@ -179,7 +179,7 @@ func eachSmall(do func(a api.Auto)) {
 				for first := range 4 {
 					a.Fair = [][]int{chosen(first)}
 					do(a)
-					for second := range first + 1 {
+					for second := range 4 {
 						a.Fair = [][]int{chosen(first), chosen(second)}
 						do(a)
 					}
