@@ -237,3 +237,30 @@ func TestCheckOrder(t *testing.T) {
 		t.Error(e)
 	}
 }
+
+// Each of these is the same as itself, put together anew, and as none of the others.
+func TestSame(t *testing.T) {
+	formulas := func() []api.Ltl {
+		list := []api.Ltl{of(api.LTrue), of(api.LFalse), atom(0), atom(1), atom(api.Silent), nots(2), nots(3), nots(19), full(3), full(5), sized(60)}
+		for _, kind := range []int{api.LNot, api.LNext, api.LFinally, api.LGlobally} {
+			list = append(list, of(kind, atom(0)), of(kind, atom(1)), of(kind, of(kind, atom(1))))
+		}
+		for _, kind := range []int{api.LAnd, api.LOr, api.LUntil, api.LRelease} {
+			list = append(list, of(kind, atom(0), atom(0)), of(kind, atom(0), atom(1)), of(kind, atom(1), atom(0)))
+			list = append(list, of(kind, of(kind, atom(0), atom(1)), atom(0)), of(kind, atom(0), of(kind, atom(1), atom(0))))
+		}
+		return list
+	}
+	again := formulas()
+	for i, f := range formulas() {
+		for j, g := range again {
+			if Same(f, g) != (i == j) {
+				t.Error(f, g, Same(f, g))
+			}
+		}
+	}
+	// Lists with nothing in them may be nil or empty.
+	if !Same(atom(1), api.Ltl{Kind: api.LAtom, N: 1, Kids: []api.Ltl{}}) {
+		t.Error("an empty list is none")
+	}
+}

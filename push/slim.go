@@ -1,9 +1,8 @@
 package push
 
 import (
-	"slices"
-
 	"watchway/api"
+	"watchway/ltl"
 )
 
 // slim is a formula without what tells nothing, from the inside on.
@@ -50,7 +49,7 @@ func slimPair(f api.Ltl, decides, nothing int) api.Ltl {
 		return part(decides)
 	case a.Kind == nothing:
 		return b
-	case b.Kind == nothing || same(a, b):
+	case b.Kind == nothing || ltl.Same(a, b):
 		return a
 	}
 	return f
@@ -74,7 +73,7 @@ func slimWay(f api.Ltl, forSecond, forSingle, single int) api.Ltl {
 		return b
 	case a.Kind == forSingle:
 		return slimPart(part(single, b))
-	case same(a, b):
+	case ltl.Same(a, b):
 		return a
 	}
 	return f
@@ -83,9 +82,4 @@ func slimWay(f api.Ltl, forSecond, forSingle, single int) api.Ltl {
 // isFixed tells whether a formula is LTrue or LFalse.
 func isFixed(f api.Ltl) bool {
 	return f.Kind == api.LTrue || f.Kind == api.LFalse
-}
-
-// same tells whether two formulas are the same part by part.
-func same(f, g api.Ltl) bool {
-	return f.Kind == g.Kind && f.N == g.N && slices.EqualFunc(f.Kids, g.Kids, same)
 }
