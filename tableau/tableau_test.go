@@ -329,6 +329,7 @@ func wrongs() []wrong {
 	// What is plain may be too large, though there are two elements.
 	for _, kind := range []int{api.LFinally, api.LGlobally} {
 		list = append(list, wrong{tree(api.LAnd, times(16, of(kind, atom(0)))...), api.ErrLarge})
+		list = append(list, wrong{around(api.LNot, 2, tree(api.LAnd, times(15, of(kind, atom(0)))...)), api.ErrLarge})
 	}
 	return list
 }
