@@ -4,6 +4,7 @@ import (
 	"iter"
 
 	"watchway/api"
+	"watchway/bitset"
 )
 
 // pair is a state of an automaton with one of another, or with the number of a fair set.
@@ -65,11 +66,11 @@ func where(pairs []pair, is func(pair) bool) []int {
 
 // once answers a list without what comes in it again.
 func once(list []int) []int {
-	var seen set
+	var seen bitset.Set
 	var short []int
 	for _, state := range list {
-		if !seen.has(state) {
-			seen.add(state)
+		if !seen.Has(state) {
+			seen.Add(state)
 			short = append(short, state)
 		}
 	}

@@ -4,6 +4,7 @@ import (
 	"iter"
 
 	"watchway/api"
+	"watchway/bitset"
 )
 
 // Single answers an automaton with just one fair set that accepts the same words as a.
@@ -12,14 +13,14 @@ func Single(a api.Auto) (api.Auto, api.Errno) {
 		return api.Auto{}, e
 	}
 	// In place of no fair set there may be one of all states: it is always met.
-	fair := setsOf(a.Fair)
+	fair := bitset.OfEach(a.Fair)
 	if len(fair) == 0 {
-		fair = []set{allStates(a)}
+		fair = []bitset.Set{bitset.Below(len(a.Next))}
 	}
 	next := eachOnce(a.Next)
 	single, pairs, e := gather(paired(once(a.Start), 0), func(at pair) iter.Seq[pair] {
 		waited := at.second
-		if fair[waited].has(at.first) {
+		if fair[waited].Has(at.first) {
 			waited = (waited + 1) % len(fair)
 		}
 		return paired(next[at.first], waited)
@@ -31,16 +32,8 @@ func Single(a api.Auto) (api.Auto, api.Errno) {
 		single.Must = append(single.Must, a.Must[p.first])
 		single.Not = append(single.Not, a.Not[p.first])
 	}
-	single.Fair = [][]int{where(pairs, func(p pair) bool { return p.second == 0 && fair[0].has(p.first) })}
+	single.Fair = [][]int{where(pairs, func(p pair) bool { return p.second == 0 && fair[0].Has(p.first) })}
 	return single, api.OK
-}
-
-func allStates(a api.Auto) set {
-	var all set
-	for state := range a.Next {
-		all.add(state)
-	}
-	return all
 }
 
 // paired hands over each of some states with the number of the fair set that is waited for.

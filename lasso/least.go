@@ -26,22 +26,28 @@ func Same(v, w api.Word) (bool, api.Errno) {
 	return slices.Equal(a.Stem, b.Stem) && slices.Equal(a.Loop, b.Loop), api.OK
 }
 
-// least is Least of a word. A Stem that ends like its Loop is longer than it must be: the Loop may begin a letter earlier.
+// least is Least of a word.
 func least(w api.Word) api.Word {
-	loop := w.Loop[:period(w.Loop)]
-	stem, begin := len(w.Stem), 0
-	for stem > 0 {
-		last := (begin + len(loop) - 1) % len(loop)
-		if w.Stem[stem-1] != loop[last] {
-			break
-		}
-		stem, begin = stem-1, last
-	}
-	return api.Word{Stem: slices.Clone(w.Stem[:stem]), Loop: slices.Concat(loop[begin:], loop[:begin])}
+	stem, loop := Fold(w.Stem, w.Loop)
+	return api.Word{Stem: stem, Loop: loop}
 }
 
-// period answers how many letters the shortest loop with the same letters, again and again, has.
-func period(loop []uint64) int {
+// Fold answers the same endless row with the shortest loop, and with the shortest stem for that; the loop must have something. A stem that ends like its loop is longer than it must be: the loop may begin one place earlier.
+func Fold[T comparable](stem, loop []T) ([]T, []T) {
+	loop = loop[:period(loop)]
+	size, begin := len(stem), 0
+	for size > 0 {
+		last := (begin + len(loop) - 1) % len(loop)
+		if stem[size-1] != loop[last] {
+			break
+		}
+		size, begin = size-1, last
+	}
+	return slices.Clone(stem[:size]), slices.Concat(loop[begin:], loop[:begin])
+}
+
+// period answers how long the shortest loop of the same things, again and again, is.
+func period[T comparable](loop []T) int {
 	for count := 1; count < len(loop); count++ {
 		if len(loop)%count == 0 && slices.Equal(loop[count:], loop[:len(loop)-count]) {
 			return count

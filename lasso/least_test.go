@@ -108,3 +108,39 @@ func TestSameWrong(t *testing.T) {
 		}
 	}
 }
+
+// Rows of other things than letters may be longer than a word.
+func TestFoldLongRows(t *testing.T) {
+	row := make([]int, 700)
+	for i := range row {
+		row[i] = i - 7
+	}
+	for _, rounds := range []int{1, 2, 3, 90} {
+		for _, stem := range []int{0, 1, 699, 700, 701, 2500} {
+			for _, ahead := range [][]int{nil, {700}, {1, 2, 3}} {
+				// The stem is a piece of what comes again and again, with something ahead of it.
+				long := slices.Repeat(row, 4)
+				piece := long[len(long)-stem:]
+				begin := (700 - stem%700) % 700
+				stem, loop := Fold(slices.Concat(ahead, piece), slices.Repeat(row, rounds))
+				if !slices.Equal(stem, ahead) || !slices.Equal(loop, slices.Concat(row[begin:], row[:begin])) {
+					t.Error(rounds, len(piece), ahead, stem, len(loop))
+				}
+			}
+		}
+	}
+}
+
+func TestFoldAnswersNewMemory(t *testing.T) {
+	given := []string{"a", "b", "c", "b", "c"}
+	stem, loop := Fold(given[:1], given[1:])
+	if !slices.Equal(stem, []string{"a"}) || !slices.Equal(loop, []string{"b", "c"}) {
+		t.Fatal(stem, loop)
+	}
+	for _, list := range [][]string{stem[:cap(stem)], loop[:cap(loop)]} {
+		clear(list)
+	}
+	if !slices.Equal(given, []string{"a", "b", "c", "b", "c"}) {
+		t.Error(given)
+	}
+}
